@@ -3,6 +3,7 @@ package tree
 import (
 	"crypto/sha256"
 	"math"
+	"slices"
 	"testing"
 )
 
@@ -64,6 +65,48 @@ func TestShowsWrittenOut(t *testing.T) {
 	} {
 		if !got {
 			t.Errorf("case %d is not shown", i)
+		}
+	}
+}
+
+func TestWhatShowsWrittenOut(t *testing.T) {
+	l := []string{"a", "b", "c", "d"}
+	a, b, c, d := sum("\x00a"), sum("\x00b"), sum("\x00c"), sum("\x00d")
+	ab, cd := sum("\x01"+a+b), sum("\x01"+c+d)
+	for i, c := range []struct{ got, want []string }{
+		{WhatShowsEntry(l[:1], 0), nil},
+		{WhatShowsEntry(l[:2], 0), []string{b}},
+		{WhatShowsEntry(l[:2], 1), []string{a}},
+		{WhatShowsEntry(l[:3], 0), []string{b, c}},
+		{WhatShowsEntry(l[:3], 1), []string{a, c}},
+		{WhatShowsEntry(l[:3], 2), []string{ab}},
+		{WhatShowsEntry(l, 2), []string{d, ab}},
+		{WhatShowsEntry(l, 3), []string{c, ab}},
+		{WhatShowsStart(l[:1], 1), nil},
+		{WhatShowsStart(l, 4), nil},
+		{WhatShowsStart(l[:2], 1), []string{b}},
+		{WhatShowsStart(l[:3], 1), []string{b, c}},
+		{WhatShowsStart(l[:3], 2), []string{c}},
+		{WhatShowsStart(l, 2), []string{cd}},
+		{WhatShowsStart(l, 3), []string{c, d, ab}},
+	} {
+		if !slices.Equal(c.got, c.want) {
+			t.Errorf("case %d: %x, want %x", i, c.got, c.want)
+		}
+	}
+}
+
+func TestWhatShowsIsShown(t *testing.T) {
+	var l []string
+	for n := 1; n <= 40; n++ {
+		l = append(l, string(rune('a'+n)))
+		for i := range n {
+			if !ShowsEntry(WhatShowsEntry(l, i), Leaf(l[i]), i, n, Root(l)) {
+				t.Errorf("entry %d of %d is not shown", i, n)
+			}
+			if !ShowsStart(WhatShowsStart(l, i+1), i+1, Root(l[:i+1]), n, Root(l)) {
+				t.Errorf("that %d begin with %d is not shown", n, i+1)
+			}
 		}
 	}
 }

@@ -8,16 +8,23 @@ import (
 )
 
 // The example of README.md.
-func ExampleAudit() {
-	a, b := vouch.Leaf("a"), vouch.Leaf("b")
-	p := api.Promise{Leaf: b, Deadline: 3}
-	p.Tag = vouch.Tag("key", "P"+b+"\x00\x00\x00\x03")
-	h := api.Head{Size: 2, Tick: 3, Root: vouch.Root([]string{"a", "b"})}
-	h.Tag = vouch.Tag("key", "H"+"\x00\x00\x00\x02"+"\x00\x00\x00\x03"+h.Root)
+func Example() {
+	s, _ := vouch.New(api.Config{Batch: 2, Queue: 4, Quota: 3, Delay: 3, Key: "key"})
+	p, _ := s.Submit("S0\x01a")
+	s.Submit("S0\x01b")
+	s.Submit("S1\x01c")
 
-	fmt.Println(vouch.Audit("key", p, h, 1, []string{a}) == api.Kept)
-	fmt.Println(vouch.Audit("key", p, h, 1, nil) == api.Broken)
+	old, _ := s.Tick()
+	now, _ := s.Tick()
+	fmt.Println(p.Deadline, old.Size, now.Size)
+
+	index, list, _ := s.Inclusion(p.Leaf, now.Size)
+	fmt.Println(vouch.Audit("key", p, now, index, list) == api.Kept)
+
+	list, _ = s.Consistency(old.Size, now.Size)
+	fmt.Println(vouch.Compare("key", old, now, list) == api.Kept)
 	// Output:
+	// 3 2 3
 	// true
 	// true
 }

@@ -43,36 +43,3 @@ func Compare(key string, old api.Head, now api.Head, list []string) api.Verdict 
 	}
 	return api.Broken
 }
-
-// Server takes entries.
-type Server struct{}
-
-// New makes a server (P7).
-func New(c api.Config) (*Server, api.Errno) { return nil, api.OK }
-
-// Open makes a server of a journal (P8).
-func Open(key string, journal string) (*Server, api.Errno) { return nil, api.OK }
-
-// Journal tells what the server is written as (P9).
-func (s *Server) Journal() string { return "" }
-
-// Stop lets the journal stop when so many bytes more have been written (P9).
-func (s *Server) Stop(after int) api.Errno { return api.OK }
-
-// Submit takes an entry (P10).
-func (s *Server) Submit(request string) (api.Promise, api.Errno) { return api.Promise{}, api.OK }
-
-// Tick lets time go on (P11).
-func (s *Server) Tick() (api.Head, api.Errno) { return api.Head{}, api.OK }
-
-// Head tells what was published at a tick (P12).
-func (s *Server) Head(tick int) (api.Head, api.Errno) { return api.Head{}, api.OK }
-
-// Waiting tells how many entries wait (P12).
-func (s *Server) Waiting() int { return 0 }
-
-// Inclusion tells where an entry is, and what shows it (P12).
-func (s *Server) Inclusion(leaf string, size int) (int, []string, api.Errno) { return 0, nil, api.OK }
-
-// Consistency tells what shows that the log has only grown (P12).
-func (s *Server) Consistency(m int, n int) ([]string, api.Errno) { return nil, api.OK }
