@@ -1,4 +1,4 @@
-// Package frame makes the frames of a journal.
+// Package frame makes the frames of a journal, and reads them.
 package frame
 
 import (
@@ -7,34 +7,45 @@ import (
 )
 
 const (
-	firstMark = "VOUCH"
-	tickMark  = 'T'
+	firstMark  = "VOUCH"
+	limitBytes = 4
+	firstBytes = len(firstMark) + limitBytes + api.HashBytes
+	tickMark   = 'T'
 )
 
-// First is the frame that a journal begins with. It holds the key's hash and
-// not the key, so that who reads a journal cannot tag by it.
+// First is what a journal's first frame holds. It has the key's hash and not
+// the key, so that who reads a journal cannot tag by it.
 func First(c api.Config) string {
 	limits := []byte{byte(c.Batch), byte(c.Queue), byte(c.Quota), byte(c.Delay)}
-	return wrap(firstMark + string(limits) + digest.Sum(c.Key))
+	return firstMark + string(limits) + digest.Sum(c.Key)
 }
 
-// Request is the frame of a request that was taken.
-func Request(text string) string {
-	return wrap(text)
+// ReadFirst is the configuration with the key for which a first frame holds
+// this; not ok, if there is none. Whether it may be is not asked.
+func ReadFirst(held, key string) (api.Config, bool) {
+	if len(held) != firstBytes {
+		return api.Config{}, false
+	}
+	limits := held[len(firstMark):]
+	c := api.Config{
+		Batch: int(limits[0]),
+		Queue: int(limits[1]),
+		Quota: int(limits[2]),
+		Delay: int(limits[3]),
+		Key:   key,
+	}
+	if held != First(c) {
+		return api.Config{}, false
+	}
+	return c, true
 }
 
-// Tick is the frame of a tick that took the entries with these numbers.
+// Tick is what the frame of a tick that took the entries with these numbers
+// holds.
 func Tick(numbers []int) string {
 	held := []byte{tickMark}
 	for _, n := range numbers {
 		held = append(held, byte(n))
 	}
-	return wrap(string(held))
-}
-
-// wrap gives the length a sum of its own, so that a length that is damaged is
-// found before it is trusted.
-func wrap(held string) string {
-	length := string([]byte{byte(len(held)), byte(len(held) >> 8)})
-	return length + sum(length) + held + sum(held)
+	return string(held)
 }

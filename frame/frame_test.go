@@ -39,33 +39,58 @@ func TestSumIsAsPublished(t *testing.T) {
 func TestFirstWrittenOut(t *testing.T) {
 	for _, k := range []string{"", "key", "sixteen bytes :)"} {
 		hash := sha256.Sum256([]byte(k))
-		want := framed("VOUCH\x02\x18\x04\x3c" + string(hash[:]))
-		if got := First(api.Config{Batch: 2, Queue: 24, Quota: 4, Delay: 60, Key: k}); got != want {
+		want := "VOUCH\x02\x18\x04\x3c" + string(hash[:])
+		c := api.Config{Batch: 2, Queue: 24, Quota: 4, Delay: 60, Key: k}
+		if got := First(c); got != want {
 			t.Errorf("key %q: %x, want %x", k, got, want)
+		}
+		if got, ok := ReadFirst(want, k); got != c || !ok {
+			t.Errorf("key %q: %#v, %t", k, got, ok)
 		}
 	}
 }
 
-func TestRequestAndTick(t *testing.T) {
+// Each byte of the limits is a number from 0 to 255 of its own.
+func TestReadFirstOfAllLimits(t *testing.T) {
+	for n := range 256 {
+		for _, c := range []api.Config{{Batch: n}, {Queue: n}, {Quota: n}, {Delay: n, Key: "key"}} {
+			if got, ok := ReadFirst(First(c), c.Key); got != c || !ok {
+				t.Errorf("%#v, %t, want %#v", got, ok, c)
+			}
+		}
+	}
+}
+
+func TestReadFirstOfWrongText(t *testing.T) {
+	right := First(api.Config{Batch: 2, Queue: 4, Quota: 3, Delay: 3, Key: "key"})
+	wrong := func(held, key string) {
+		t.Helper()
+		if c, ok := ReadFirst(held, key); ok || c != (api.Config{}) {
+			t.Errorf("%x with the key %q: %#v, %t", held, key, c, ok)
+		}
+	}
+	for i := range right {
+		wrong(right[:i], "key")
+		if i < 5 || i >= 9 {
+			wrong(right[:i]+string([]byte{right[i] ^ 1})+right[i+1:], "key")
+		}
+	}
+	wrong(right+"\x00", "key")
+	wrong("\x00"+right, "key")
+	wrong(right+right, "key")
+	for _, k := range []string{"", "kez", "ke", "key\x00", right, right[9:]} {
+		wrong(right, k)
+	}
+}
+
+func TestTick(t *testing.T) {
 	for _, c := range []struct{ got, want string }{
-		{Request("S0\x01a"), framed("S0\x01a")},
-		{Request("S3\x18" + "abcdefghijklmnopqrstuvwx"), framed("S3\x18" + "abcdefghijklmnopqrstuvwx")},
-		{Tick(nil), framed("T")},
-		{Tick([]int{0}), framed("T\x00")},
-		{Tick([]int{99, 3, 200}), framed("T\x63\x03\xc8")},
+		{Tick(nil), "T"},
+		{Tick([]int{0}), "T\x00"},
+		{Tick([]int{99, 3, 200}), "T\x63\x03\xc8"},
 	} {
 		if c.got != c.want {
 			t.Errorf("%x, want %x", c.got, c.want)
-		}
-	}
-}
-
-// The lower byte of a length stands first, also where the higher one is not 0.
-func TestWrapOfLongText(t *testing.T) {
-	for _, n := range []int{0, 1, 255, 256, 257, 65535} {
-		text := string(make([]byte, n))
-		if wrap(text) != framed(text) {
-			t.Errorf("a frame of %d bytes", n)
 		}
 	}
 }

@@ -23,8 +23,20 @@ func Example() {
 
 	list, _ = s.Consistency(old.Size, now.Size)
 	fmt.Println(vouch.Compare("key", old, now, list) == api.Kept)
+
+	s.Stop(20)
+	q, _ := s.Submit("S2\x01d")
+	_, e := s.Tick()
+	fmt.Println(e == api.ErrDown)
+
+	s, _ = vouch.Open("key", s.Journal())
+	last, _ := s.Tick()
+	index, list, _ = s.Inclusion(q.Leaf, last.Size)
+	fmt.Println(vouch.Audit("key", q, last, index, list) == api.Kept)
 	// Output:
 	// 3 2 3
+	// true
+	// true
 	// true
 	// true
 }

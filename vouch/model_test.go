@@ -20,6 +20,8 @@ type model struct {
 	log     []string
 	heads   []api.Head // from tick 1 on
 	journal string
+	end     int // how long the journal may become; -1, if it has no end
+	down    bool
 }
 
 type taken struct {
@@ -31,7 +33,7 @@ type taken struct {
 
 func newModel(c api.Config) *model {
 	limits := string([]byte{byte(c.Batch), byte(c.Queue), byte(c.Quota), byte(c.Delay)})
-	return &model{c: c, journal: framed("VOUCH" + limits + sum(c.Key))}
+	return &model{c: c, journal: framed("VOUCH" + limits + sum(c.Key)), end: -1}
 }
 
 func crc(text string) string {
@@ -69,7 +71,31 @@ func (m *model) waits(tenants ...int) int {
 	return n
 }
 
+func (m *model) stop(after int) api.Errno {
+	if m.down {
+		return api.ErrDown
+	}
+	m.end = len(m.journal)
+	if after > 0 {
+		m.end += min(after, 1<<40)
+	}
+	return api.OK
+}
+
+// writes tells whether the journal has room for a frame.
+func (m *model) writes(held string) bool {
+	m.journal += framed(held)
+	if m.end >= 0 && len(m.journal) > m.end {
+		m.journal = m.journal[:m.end]
+		m.down = true
+	}
+	return !m.down
+}
+
 func (m *model) submit(text string) (api.Promise, api.Errno) {
+	if m.down {
+		return api.Promise{}, api.ErrDown
+	}
 	if !isRequest(text) {
 		return api.Promise{}, api.ErrRequest
 	}
@@ -86,8 +112,10 @@ func (m *model) submit(text string) (api.Promise, api.Errno) {
 	case m.waits(0, 1, 2, 3) == m.c.Queue || m.waits(tenant) == m.c.Quota:
 		return api.Promise{}, api.ErrBusy
 	}
+	if !m.writes(text) {
+		return api.Promise{}, api.ErrDown
+	}
 	m.taken = append(m.taken, x)
-	m.journal += framed(text)
 	return m.promise(x), api.OK
 }
 
@@ -97,6 +125,9 @@ func (m *model) promise(x taken) api.Promise {
 }
 
 func (m *model) tick() (api.Head, api.Errno) {
+	if m.down {
+		return api.Head{}, api.ErrDown
+	}
 	if len(m.heads) == 300 {
 		return api.Head{}, api.ErrFull
 	}
@@ -107,7 +138,9 @@ func (m *model) tick() (api.Head, api.Errno) {
 		m.log = append(m.log, m.taken[i].entry)
 		held += string([]byte{byte(i)})
 	}
-	m.journal += framed(held)
+	if !m.writes(held) {
+		return api.Head{}, api.ErrDown
+	}
 	size, tick, root := len(m.log), len(m.heads)+1, rootOf(m.log)
 	h := api.Head{Size: size, Tick: tick, Root: root, Tag: mac(m.c.Key, "H"+number(size)+number(tick)+root)}
 	m.heads = append(m.heads, h)
@@ -136,6 +169,9 @@ func (m *model) order(i int) []int {
 }
 
 func (m *model) head(tick int) (api.Head, api.Errno) {
+	if m.down {
+		return api.Head{}, api.ErrDown
+	}
 	if tick < 1 || tick > len(m.heads) {
 		return api.Head{}, api.ErrNone
 	}
@@ -143,6 +179,9 @@ func (m *model) head(tick int) (api.Head, api.Errno) {
 }
 
 func (m *model) inclusion(leaf string, size int) (int, []string, api.Errno) {
+	if m.down {
+		return 0, nil, api.ErrDown
+	}
 	for i, entry := range m.log {
 		if i < size && size <= len(m.log) && sum("\x00", entry) == leaf {
 			return i, showsEntry(i, m.log[:size]), api.OK
@@ -152,6 +191,9 @@ func (m *model) inclusion(leaf string, size int) (int, []string, api.Errno) {
 }
 
 func (m *model) consistency(old, now int) ([]string, api.Errno) {
+	if m.down {
+		return nil, api.ErrDown
+	}
 	if old < 1 || old > now || now > len(m.log) {
 		return nil, api.ErrNone
 	}
@@ -172,6 +214,16 @@ func begin(t *testing.T, c api.Config) both {
 		t.Fatalf("New(%#v): %d", c, e)
 	}
 	return both{t, s, newModel(c)}
+}
+
+func (b both) stop(after int) api.Errno {
+	b.t.Helper()
+	e, want := b.s.Stop(after), b.m.stop(after)
+	if e != want {
+		b.t.Fatalf("Stop(%d): %d, want %d", after, e, want)
+	}
+	b.state()
+	return e
 }
 
 func (b both) submit(text string) (api.Promise, api.Errno) {
@@ -223,7 +275,7 @@ func (b both) ticks(log string) {
 // ticksTo lets time go on to a tick.
 func (b both) ticksTo(tick int) {
 	b.t.Helper()
-	for len(b.m.heads) < tick {
+	for len(b.m.heads) < tick && !b.m.down {
 		b.tick()
 	}
 }
@@ -231,7 +283,11 @@ func (b both) ticksTo(tick int) {
 // state holds what waits and what is written against the model.
 func (b both) state() {
 	b.t.Helper()
-	if got, want := b.s.Waiting(), b.m.waits(0, 1, 2, 3); got != want {
+	want := b.m.waits(0, 1, 2, 3)
+	if b.m.down {
+		want = 0
+	}
+	if got := b.s.Waiting(); got != want {
 		b.t.Fatalf("%d wait, want %d", got, want)
 	}
 	if got := b.s.Journal(); got != b.m.journal {

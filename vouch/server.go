@@ -1,6 +1,7 @@
 package vouch
 
 import (
+	"math"
 	"slices"
 	"strings"
 
@@ -12,9 +13,10 @@ import (
 
 // Server takes entries.
 type Server struct {
-	up       bool // only what New makes is: a Server that is all zeros takes nothing
+	up       bool // not where the journal has stopped, nor where all is zeros
 	config   api.Config
 	journal  []byte
+	left     int            // how many bytes more can be written: without a Stop, more than there will ever be
 	promised map[string]int // by entry: its deadline
 	waiting  queue.Queue
 	log      []string
@@ -27,13 +29,28 @@ func New(c api.Config) (*Server, api.Errno) {
 		return nil, api.ErrConfig
 	}
 	c.Key = strings.Clone(c.Key)
-	s := &Server{up: true, config: c, promised: map[string]int{}, waiting: queue.New()}
+	s := &Server{up: true, config: c, left: math.MaxInt, promised: map[string]int{}, waiting: queue.New()}
 	s.write(frame.First(c))
 	return s, api.OK
 }
 
 // Open makes a server of a journal (P8).
-func Open(key string, journal string) (*Server, api.Errno) { return nil, api.OK }
+func Open(key string, journal string) (*Server, api.Errno) {
+	held, rest, ok := frame.Next(journal)
+	if !ok {
+		return nil, api.ErrBytes
+	}
+	c, ok := frame.ReadFirst(held, key)
+	if !ok {
+		return nil, api.ErrBytes
+	}
+	s, e := New(c)
+	if e != api.OK {
+		return nil, api.ErrBytes
+	}
+	s.redoAll(rest)
+	return s, api.OK
+}
 
 // Journal tells what the server is written as (P9).
 func (s *Server) Journal() string {
@@ -48,6 +65,7 @@ func (s *Server) Stop(after int) api.Errno {
 	if s.down() {
 		return api.ErrDown
 	}
+	s.left = max(after, 0)
 	return api.OK
 }
 
@@ -66,8 +84,10 @@ func (s *Server) Submit(request string) (api.Promise, api.Errno) {
 	if refusal := s.refusal(asked.tenant); refusal != api.OK {
 		return api.Promise{}, refusal
 	}
-	s.write(frame.Request(request))
-	return s.take(asked), api.OK
+	if !s.take(request, asked) {
+		return api.Promise{}, api.ErrDown
+	}
+	return s.promise(asked.entry, s.deadline()), api.OK
 }
 
 // Tick lets time go on (P11).
@@ -78,9 +98,9 @@ func (s *Server) Tick() (api.Head, api.Errno) {
 	if s.tick() == api.MaxTick {
 		return api.Head{}, api.ErrFull
 	}
-	batch := s.waiting.First(s.config.Batch)
-	s.write(frame.Tick(numbers(batch)))
-	s.settle(batch)
+	if !s.settle(s.waiting.First(s.config.Batch)) {
+		return api.Head{}, api.ErrDown
+	}
 	return s.head(s.tick()), api.OK
 }
 

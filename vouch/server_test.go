@@ -2,6 +2,7 @@ package vouch_test
 
 import (
 	"fmt"
+	"math/rand"
 	"strings"
 	"testing"
 	"unsafe"
@@ -10,34 +11,26 @@ import (
 	"vouch/vouch"
 )
 
-// A nil server, and one that New has not made.
+// A nil server, and one that neither New nor Open has made.
 func TestP1WithoutAServer(t *testing.T) {
 	for what, s := range map[string]*vouch.Server{"nil": nil, "zeros": {}} {
 		for _, n := range oddNumbers {
 			for _, text := range []string{"", "S0\x01a", "any"} {
-				nothing(t, what, s, n, text)
+				downCalls(t, s, n, text)
+				if s.Journal() != "" {
+					t.Errorf("%s: %q is written", what, s.Journal())
+				}
 			}
 		}
 	}
 }
 
-func nothing(t *testing.T, what string, s *vouch.Server, n int, text string) {
-	t.Helper()
-	if s.Journal() != "" || s.Waiting() != 0 {
-		t.Errorf("%s: %q is written, %d wait", what, s.Journal(), s.Waiting())
-	}
-	p, a := s.Submit(text)
-	h, b := s.Tick()
-	g, c := s.Head(n)
-	i, list, d := s.Inclusion(text, n)
-	other, e := s.Consistency(n, n)
-	for _, got := range []api.Errno{a, b, c, d, e, s.Stop(n)} {
-		if got != api.ErrDown {
-			t.Errorf("%s: %d, want %d", what, got, api.ErrDown)
-		}
-	}
-	if p != (api.Promise{}) || h != (api.Head{}) || g != h || i != 0 || len(list) > 0 || len(other) > 0 {
-		t.Errorf("%s: something beside ErrDown", what)
+func TestP1StopAtOddNumbers(t *testing.T) {
+	for _, n := range oddNumbers {
+		b := begin(t, tight)
+		b.stop(n)
+		b.submit("S0\x01a")
+		b.everything()
 	}
 }
 
@@ -65,6 +58,42 @@ func TestP1ErrorsChangeNothing(t *testing.T) {
 	b.answers(api.ErrFull, request(3, "x"))
 	b.tick()
 	wrong()
+}
+
+// Open ends and does not panic, whatever it is given.
+func TestP1OpenOfAnyBytes(t *testing.T) {
+	r := rand.New(rand.NewSource(11))
+	long := string(make([]byte, 1<<22))
+	for _, k := range []string{"", key, long} {
+		for _, text := range append(anyStrings(r, 500), "", long, strings.Repeat(ofTight, 1000), strings.Repeat(framed(""), 1000)) {
+			opens(t, k, text)
+			opens(t, k, framed(text[:min(len(text), 65535)]))
+			if k == key {
+				opened(t, k, ofTight+text, ofTight)
+				opened(t, k, ofTight+framed("T")+text, ofTight+framed("T"))
+				opened(t, k, ofTight+framed(text[:min(len(text), 65535)]), ofTight)
+			}
+		}
+	}
+}
+
+// Open changes neither the server whose journal it is given nor one that was
+// opened on it before.
+func TestP2OpenedServersAreApart(t *testing.T) {
+	a := lively(t)
+	journal := a.s.Journal()
+	b := opened(t, key, journal, journal)
+	c := opened(t, key, journal, journal)
+	b.takes("3b", "1x")
+	b.ticks("cc a d b eeeeeeeeeeeeeeeeeeeeeeee f g h x")
+	c.takes("2y")
+	c.stop(3)
+	c.tick()
+	a.takes("2z")
+	a.tick()
+	for _, x := range []both{a, b, c, opened(t, key, journal, journal)} {
+		x.everything()
+	}
 }
 
 func TestP2ServersAreApart(t *testing.T) {
@@ -115,6 +144,41 @@ func TestP2NothingHandedInIsKept(t *testing.T) {
 	b.ticks("a b c")
 	b.ticks("a b c d")
 	b.everything()
+}
+
+func TestP2NothingThatOpenIsGivenIsKept(t *testing.T) {
+	whole := lively(t).s.Journal()
+	k, ofKey := text(key)
+	journal, ofJournal := text(whole)
+	s, e := vouch.Open(k, journal)
+	if e != api.OK || k != key || journal != whole {
+		t.Fatalf("Open: %d, or what it is given was written into", e)
+	}
+	clear(ofKey)
+	clear(ofJournal)
+	b := both{t, s, openModel(key, whole)}
+	b.everything()
+	b.takes("0a", "3b", "1eeeeeeeeeeeeeeeeeeeeeeee", "0new")
+	b.tick()
+	b.tick()
+	b.everything()
+}
+
+// A journal stays as it was told, also when it has stopped since.
+func TestP2JournalIsNewMemoryAtAStop(t *testing.T) {
+	for after := range 40 {
+		b := begin(t, roomy)
+		b.takes("0a")
+		b.stop(after)
+		told := b.s.Journal()
+		whole := strings.Clone(told)
+		b.submit("S1\x01b")
+		b.tick()
+		b.tick()
+		if told != whole || !strings.HasPrefix(b.s.Journal(), told) {
+			t.Errorf("Stop(%d): the journal has changed", after)
+		}
+	}
 }
 
 // Lists that are written into, spare room too, change no later answer.

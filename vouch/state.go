@@ -4,6 +4,7 @@ import (
 	"strings"
 
 	"vouch/api"
+	"vouch/frame"
 	"vouch/queue"
 	"vouch/tree"
 )
@@ -21,8 +22,17 @@ func (s *Server) deadline() int {
 	return s.tick() + s.config.Delay
 }
 
-func (s *Server) write(frame string) {
-	s.journal = append(s.journal, frame...)
+// write tells whether all of a frame could be written. If not, the journal has
+// stopped, and is all that is kept of the server.
+func (s *Server) write(held string) bool {
+	whole := frame.Wrap(held)
+	if len(whole) > s.left {
+		*s = Server{journal: append(s.journal, whole[:s.left]...)}
+		return false
+	}
+	s.journal = append(s.journal, whole...)
+	s.left -= len(whole)
+	return true
 }
 
 // refusal is why a new entry of a tenant is not taken; OK, if it is.
@@ -36,23 +46,30 @@ func (s *Server) refusal(tenant int) api.Errno {
 	return api.OK
 }
 
-// take lets a new entry wait. Its bytes are copied, for they are a piece of
-// what was handed in.
-func (s *Server) take(a asked) api.Promise {
+// take lets a new entry wait, if its request can be written. Its bytes are
+// copied, for they are a piece of what was handed in.
+func (s *Server) take(request string, a asked) bool {
+	if !s.write(request) {
+		return false
+	}
 	entry := strings.Clone(a.entry)
 	number, deadline := len(s.promised), s.deadline()
 	s.promised[entry] = deadline
 	s.waiting.Add(queue.Item{Number: number, Tenant: a.tenant, Deadline: deadline, Entry: entry})
-	return s.promise(entry, deadline)
+	return true
 }
 
-// settle ends a tick that took a batch.
-func (s *Server) settle(batch []queue.Item) {
+// settle ends a tick that takes a batch, if that can be written.
+func (s *Server) settle(batch []queue.Item) bool {
+	if !s.write(frame.Tick(numbers(batch))) {
+		return false
+	}
 	s.waiting.Take(batch)
 	for _, item := range batch {
 		s.log = append(s.log, item.Entry)
 	}
 	s.sizes = append(s.sizes, len(s.log))
+	return true
 }
 
 func numbers(batch []queue.Item) []int {
